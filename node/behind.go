@@ -91,33 +91,39 @@ func (n *Node) hold() {
 		}
 	}
 	should := union(lists...)
+	if slices.Equal(should, n.held) {
+		return
+	}
 	n.vault.Free(n.held...)
 	n.vault.Hold(should...)
 	n.held = should
 }
 
+// lacks tells whether the vault would say of a hash that it is missing.
+func (n *Node) lacks(hash string) bool { return !n.vault.Has(hash) }
+
 // report makes its own report anew.
 func (n *Node) report() {
 	own := api.Reach{At: n.ledger.Last()}
 	for _, o := range n.ledger.Puts() {
-		if len(n.vault.Missing(o.Sheet.Hashes...)) > 0 {
+		if slices.ContainsFunc(o.Sheet.Hashes, n.lacks) {
 			own.Holes = append(own.Holes, o.N)
 		}
 	}
 	n.reports[n.me] = own
 }
 
-// hasPlace tells whether the ledger has an operation at a place.
-func (n *Node) hasPlace(at api.Spot) bool {
-	ops := n.ledger.Ops()
+// hasPlace tells whether there is an operation at a place.
+func hasPlace(ops []api.Op, at api.Spot) bool {
 	return within(at.N, 1, len(ops)) && ops[at.N-1].Epoch == at.Epoch
 }
 
 // siteMark is up to where two nodes of the site have operations with all their chunks.
 func (n *Node) siteMark() api.Reach {
 	var had []api.Reach
+	ops := n.ledger.Ops()
 	for _, r := range n.reports {
-		if n.hasPlace(r.At) {
+		if hasPlace(ops, r.At) {
 			had = append(had, r)
 		}
 	}
@@ -156,7 +162,7 @@ func (n *Node) propose(c *call) {
 		return
 	}
 	mark := n.lane.Mark()
-	if mark.N > n.ledger.Settled() && n.hasPlace(mark) {
+	if mark.N > n.ledger.Settled() && hasPlace(n.ledger.Ops(), mark) {
 		n.put(c, api.Command{Kind: api.CmdMark, Epoch: n.laneEpoch, Site: n.site, After: mark.N, Since: mark.Epoch})
 	}
 }

@@ -26,7 +26,7 @@ func (n *Node) take(c *call, from int, m api.Mail) {
 	case api.MailWant:
 		n.serve(c, from, m.Hashes...)
 	case api.MailBlob:
-		if slices.Contains(n.missing(), sha.Sum(m.Data)) {
+		if hash := sha.Sum(m.Data); slices.Contains(n.needs(), hash) && n.lacks(hash) {
 			n.store(m.Data)
 		}
 	case api.MailShip:
