@@ -269,7 +269,10 @@ func TestCommandsAsBytes(t *testing.T) { // P11.3, P11.4
 	}
 	two := strings.Repeat("\x00", 6) + deed.PackOps(api.Op{}, api.Op{}) + "\x00"
 	none := strings.Repeat("\x00", 6) + deed.PackOps() + "\x00"
-	for _, s := range []string{two, none, ""} {
+	zero := opBytes(api.Op{})
+	oddTwo := strings.Repeat("\x00", 6) + pack.Nums(2) + zero + "\x00"
+	oddNone := strings.Repeat("\x00", 6) + pack.Nums(0) + zero + "\x00"
+	for _, s := range []string{two, none, oddTwo, oddNone, ""} {
 		if _, e := deed.Parse(s); e != api.ErrForm {
 			t.Fatalf("%x", s)
 		}

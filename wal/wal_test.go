@@ -117,8 +117,12 @@ func TestWhatCounts(t *testing.T) { // P9.1
 	for _, head := range []string{seal(pack.Nums(1)), seal(pack.Nums(1) + pack.Text("x") + "y"), seal(pack.Nums(3) + pack.Text("x")), seal(""), seal(pack.Nums(2) + pack.Text("x")), begin("x")[:6]} {
 		open(t, lay("log.1", one, "log.2", head+seal("z")), "base", "a", "b")
 	}
-	open(t, lay("log.1", one, "log.2", seal(pack.Nums(2, len(one), 0))+seal("c")), "base", "a", "b")
+	for _, head := range []string{pack.Nums(2, len(one), 0), pack.Nums(3, len(one)), pack.Nums(1, len(one)), pack.Nums(0, len(one)), pack.Nums(2) + pack.Text("x")} {
+		open(t, lay("log.1", one, "log.2", seal(head)+seal("c")), "base", "a", "b")
+	}
 	open(t, lay("log.999999999", begin("last")+seal("x")), "last", "x")
+	end := begin("last") + seal("x")
+	open(t, lay("log.999999999", end, "log.1000000000", goOn(len(end))+seal("y")), "last", "x")
 }
 
 func TestAppend(t *testing.T) { // P9.2
@@ -253,6 +257,14 @@ func TestLay(t *testing.T) { // P9.3
 		t.Fatal(d.Steps() - steps)
 	}
 	open(t, d, "short")
+	for i := range 5 {
+		want(t, l.Lay(strings.Repeat("n", i)), api.OK)
+		want(t, l.Append("r"), api.OK)
+		if len(d.Names("")) != 1 {
+			t.Fatal(d.Names(""))
+		}
+	}
+	open(t, d, "nnnn", "r")
 	// the others go by rising number
 	d = lay("log.9", begin("b")+"torn", "log.10", goOn(len(begin("b"))))
 	l = open(t, d, "b")
@@ -323,6 +335,7 @@ func TestPowerGoes(t *testing.T) { // P9.5
 				if rnd.Intn(6) == 0 {
 					b := strings.Repeat("B", rnd.Intn(3000))
 					if e := l.Lay(b); e != api.OK {
+						want(t, e, api.ErrDown)
 						may = append(may, state{b, nil})
 						break
 					}
@@ -334,6 +347,7 @@ func TestPowerGoes(t *testing.T) { // P9.5
 					list = append(list, strings.Repeat(string([]byte{byte(rnd.Intn(256))}), rnd.Intn(900)))
 				}
 				if e := l.Append(list...); e != api.OK {
+					want(t, e, api.ErrDown)
 					for n := range list {
 						may = append(may, state{sure.base, append(slices.Clone(sure.records), list[:n+1]...)})
 					}
