@@ -250,7 +250,7 @@ func TestFetch(t *testing.T) { // P22.4
 	do(t, l, api.OpPut, 103, "a", data)
 	says(t, d.Fetch(v, l)) // live, with the same sheet
 	do(t, l, api.OpDrop, 104, "a", "")
-	do(t, l, api.OpPut, 105, "a", data+"!")
+	do(t, l, api.OpPut, 105, "a", data[:128]+"!") // as many bytes, others
 	says(t, d.Fetch(v, l), api.Reply{Ask: 6, Err: api.ErrMissing, At: last})
 	// dropped, but all are there still
 	do(t, l, api.OpDrop, 106, "a", "")
@@ -272,17 +272,20 @@ func TestFetch(t *testing.T) { // P22.4
 
 func TestNeedsAndDrop(t *testing.T) { // P22.5
 	data := strings.Repeat("p", 64) + "r"
-	l := load(t, "a", data, "b", "r", "c", "other")
+	l := load(t, "a", data, "b", "r", "c", "other", "d", "one", "e", "two", "f", "three")
 	d := desk.New()
 	add(t, d, 3, api.Ask{Kind: api.AskRestore, Name: "c"}, 2, 1)
 	add(t, d, 4, api.Ask{Kind: api.AskPut, Name: "c"}, 1, 1)
 	add(t, d, 5, api.Ask{Kind: api.AskRestore, Name: "a"}, 1, 1)
 	add(t, d, 6, api.Ask{Kind: api.AskRestore, Name: "b"}, 1, 1)
+	for i, name := range []string{"d", "e", "f"} {
+		add(t, d, 7+i, api.Ask{Kind: api.AskRestore, Name: name}, 1, 1)
+	}
 	if len(d.Needs()) != 0 {
 		t.Fatal(d.Needs())
 	}
 	says(t, d.Agreed(1, 1, ok, l))
-	want := sheetOf(data).Hashes
+	want := slices.Concat(sheetOf(data).Hashes, sheetOf("one").Hashes, sheetOf("two").Hashes, sheetOf("three").Hashes)
 	slices.Sort(want)
 	if got := d.Needs(); !slices.Equal(got, want) {
 		t.Fatal(got)
@@ -292,7 +295,7 @@ func TestNeedsAndDrop(t *testing.T) { // P22.5
 		t.Fatal("what is answered is new memory")
 	}
 	var all []api.Reply
-	for n := 3; n <= 6; n++ {
+	for n := 3; n <= 9; n++ {
 		all = append(all, api.Reply{Ask: n, Err: api.ErrUnsure})
 	}
 	says(t, d.Drop(), all...)

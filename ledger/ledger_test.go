@@ -510,12 +510,15 @@ func TestCopyAndOwnMemory(t *testing.T) { // P12.5
 	at(t, l, reign(1, 0), 1, 1)
 	c := put(1, 0, 0, 1, "a", "data")
 	at(t, l, c, 2, 1)
-	c.Op.Sheet.Hashes[0] = "turned"
+	c.Op.Sheet.Hashes[0] = "turned in"
 	shipped := []api.Op{opPut(3, 1, 0, 0, 2, "b", "more")}
 	at(t, l, ship(1, 0, 2, 1, shipped...), 3, 1)
-	shipped[0].Sheet.Hashes[0] = "turned"
+	shipped[0].Sheet.Hashes[0] = "turned in"
 	shipped[0].Name = "turned"
 	before := l.Pack()
+	if strings.Contains(before, "turned") {
+		t.Fatal("what is handed in isn't kept")
+	}
 	twin := l.Copy()
 	if twin.Pack() != before || twin.Used() != l.Used() {
 		t.Fatal("one with the same")
@@ -535,10 +538,22 @@ func TestCopyAndOwnMemory(t *testing.T) { // P12.5
 		t.Fatal("they know nothing of each other")
 	}
 	not(t, twin, drop(1, 0, 0, 4, "a"), api.ErrNotFound)
+	if a, b := l.Ops(), twin.Ops(); a[3].Name != "c" || b[3].Name != "a" || b[3].Kind != api.OpDrop {
+		t.Fatal("they know nothing of each other")
+	}
+	for n := range 12 {
+		at(t, l, put(1, 0, 5, n+1, fmt.Sprint(n), ""), n+5, 1)
+		a, b := l.Copy(), l.Copy()
+		a.Apply(put(1, 0, 6, 1, "of a", ""))
+		b.Apply(put(1, 0, 6, 1, "of b", ""))
+		if a.Ops()[n+5].Name != "of a" || len(l.Ops()) != n+5 {
+			t.Fatal("they know nothing of each other", n)
+		}
+	}
 	at(t, l, ship(2, 1, 0, 0, opReign(1, 2, 1)), 1, 2)
 	third := l.Copy()
 	at(t, third, ship(3, 1, 0, 0, opReign(1, 3, 1)), 1, 3)
-	if len(l.Lost()) != 4 || len(third.Lost()) != 5 {
+	if len(l.Lost()) != 16 || len(third.Lost()) != 17 {
 		t.Fatal(len(l.Lost()), len(third.Lost()))
 	}
 }

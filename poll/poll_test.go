@@ -299,6 +299,19 @@ func TestLetGo(t *testing.T) { // P13.3
 	}
 }
 
+func TestMayCome(t *testing.T) { // P13.3
+	long := strings.Repeat("x", 8000)
+	eight := entries(1, 1, 2, 2, 3, 3, 4, 4)
+	eight[7].Data = long
+	p := begin(t, 0, fresh())
+	says(t, p.Take(1, api.Mail{Kind: api.MailFeed, Term: 4, Entries: eight}), send(1, api.Mail{Kind: api.MailFed, Term: 4, Good: true, Index: 8}))
+	says(t, p.Take(2, api.Mail{Kind: api.MailLay, Term: 4, Index: 1 << 40, Prev: 4, Data: strings.Repeat("s", 100000)}), send(2, api.Mail{Kind: api.MailFed, Term: 4, Good: true, Index: 1 << 40}))
+	if p.Lead() != 2 || p.Last() != 1<<40 {
+		t.Fatal(p.Lead(), p.Last())
+	}
+	says(t, p.Take(2, api.Mail{Kind: api.MailAsk, Term: 1 << 40, Index: 1 << 40, Prev: 1 << 40, Commit: 1 << 40}), send(2, api.Mail{Kind: api.MailVote, Term: 1 << 40, Good: true}))
+}
+
 func TestTerms(t *testing.T) { // P13.3
 	p := lead(t, 1, 2)
 	says(t, p.Take(1, api.Mail{Kind: api.MailFed, Term: 7}))
@@ -479,8 +492,17 @@ func TestFed(t *testing.T) { // P13.3
 	says(t, fed(p, 2, true, 1000))
 	stands(t, p, api.Leader, 0, 17, 17)
 	saves(t, p, api.Save{Term: 5, Vote: 0, From: 6, Entries: p.Kept().Entries[5:]}, true)
+	// how far next goes back: by one at least, to what was told, but not to what matches
+	q := lead(t, 1, 2, 2, 3)
+	says(t, fed(q, 1, false, 1), feed(1, 1, 1, 0, q))
+	says(t, fed(q, 2, true, 2))
+	says(t, fed(q, 2, false, 0), feed(2, 2, 2, 0, q))
+	// who said that nothing matches has nothing
+	q = lead(t)
+	says(t, fed(q, 1, true, 0), feed(1, 0, 0, 0, q))
+	stands(t, q, api.Leader, 0, 0, 1)
 	// only an entry of its own term tells what is agreed on
-	q := lead(t, 1, 2, 4)
+	q = lead(t, 1, 2, 4)
 	says(t, fed(q, 1, true, 3), feed(1, 3, 4, 0, q))
 	stands(t, q, api.Leader, 0, 0, 4)
 	says(t, fed(q, 2, true, 4))
@@ -559,6 +581,20 @@ func TestCopyAndNil(t *testing.T) { // P13.6
 	b, _ := q.Entry(5)
 	if a.Data != "b" || b.Data != "c" || p.Commit() != 0 || q.Commit() != 5 {
 		t.Fatal(a, b)
+	}
+	for n := range 10 {
+		p := lead(t)
+		for range n {
+			p.Propose("same")
+		}
+		q := p.Copy()
+		p.Propose("p")
+		q.Propose("q")
+		a, _ := p.Entry(n + 2)
+		b, _ := q.Entry(n + 2)
+		if a.Data != "p" || b.Data != "q" {
+			t.Fatal("they know nothing of each other", n)
+		}
 	}
 	in := api.Kept{Vote: -1, Term: 1, Entries: entries(1, 1)}
 	r := begin(t, 0, in)

@@ -19,7 +19,7 @@ func (p *Poll) Take(from int, m api.Mail) []api.Send {
 	case api.MailAsk:
 		return p.asked(from, m)
 	case api.MailVote:
-		return p.voted(from, m)
+		return p.voted(m)
 	case api.MailFeed:
 		return p.fed(from, m)
 	case api.MailLay:
@@ -70,12 +70,11 @@ func (p *Poll) asked(from int, m api.Mail) []api.Send {
 	return p.answer(from, api.MailVote, good, 0)
 }
 
-func (p *Poll) voted(from int, m api.Mail) []api.Send {
+func (p *Poll) voted(m api.Mail) []api.Send {
 	if p.role != api.Candidate || !m.Good {
 		return nil
 	}
-	// Its own vote and one more are most of three.
-	p.votes[from] = true
+	// Its own vote and this one are most of three: none need be counted.
 	return p.reign()
 }
 
