@@ -105,6 +105,9 @@ func TestSee(t *testing.T) { // P26.1
 		}
 	}
 	see(t, m, api.ErrDenied, reign(1, 1, 1))
+	empty := model.New()
+	see(t, empty, api.OK, r, put(2, 1, 1, "a", ""))
+	see(t, empty, api.ErrDenied, r, drop(2, 1, 1, "a"))
 	// another place ahead
 	see(t, m, api.OK, r, a, reign(3, 3, 1))
 	see(t, m, api.ErrDenied, r, reign(2, 2, 1), reign(3, 3, 1))

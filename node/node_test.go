@@ -416,7 +416,19 @@ func TestExample(t *testing.T) { // P23.2, P23.3
 	}
 	again := w.ask(0, put(1, "a", "some bytes"))
 	there := w.ask(0, put(2, "a", "other"))
+	gone := w.ask(0, api.Ask{Kind: api.AskDrop, Client: 2, Seq: 1, Name: "b"})
 	w.come(nil)
+	w.answered(gone, api.Reply{Err: api.ErrNotFound})
+	gone = w.ask(0, api.Ask{Kind: api.AskDrop, Client: 2, Seq: 2, Name: "a"})
+	for range 2 {
+		w.come(nil)
+		w.tick(0, 1, 2)
+	}
+	w.come(nil)
+	w.answered(gone, api.Reply{At: api.Spot{N: 3, Epoch: 1}})
+	if len(w.nodes[1].Ledger().Names()) != 0 {
+		t.Fatal(w.nodes[1].Ledger().Names())
+	}
 	w.answered(again, api.Reply{At: at})
 	w.answered(there, api.Reply{Err: api.ErrThere})
 }
@@ -450,6 +462,9 @@ func TestQueueAndQuota(t *testing.T) { // P23.2
 		}
 		w.come(nil)
 		w.answered(n, api.Reply{Err: api.ErrQuota}) // the ledger's
+		if files := len(w.drives[0].Names("b.")); i < 9 && files != 8*(i+1) {
+			t.Fatal("where nothing is refused nothing is swept", i, files)
+		}
 	}
 	w.tick(0)
 	if len(w.drives[0].Names("b.")) != 0 {
@@ -505,8 +520,12 @@ func TestWantAndBlob(t *testing.T) { // P23.3
 		t.Fatal(w.nodes[1].Missing())
 	}
 	_, l := w.nodes[1].Tick(0)
-	if r := w.nodes[1].Whole(); !slices.Equal(r.Holes, []int{2}) {
+	r := w.nodes[1].Whole()
+	if !slices.Equal(r.Holes, []int{2}) {
 		t.Fatal("its own report is made anew", r)
+	}
+	if r.Holes[0] = 9; w.nodes[1].Whole().Holes[0] != 2 {
+		t.Fatal("what is answered is new memory")
 	}
 	if !slices.ContainsFunc(parse(t, l), func(m api.Mail) bool { return m.Kind == api.MailWant && slices.Equal(m.Hashes, h[:1]) }) {
 		t.Fatal("it is asked for")
@@ -531,7 +550,8 @@ func TestLetGo(t *testing.T) { // P23.3
 	nothing(0, 1, vote[:len(vote)-1])
 	nothing(0, 1, vote+"\x00")
 	nothing(0, 1, "")
-	for _, from := range []int{0, 3, 4, 6, -1, 7, math.MaxInt} {
+	for _, from := range []int{0, 3, 4, 6, -1, -2, 7, math.MaxInt, math.MinInt} {
+		nothing(0, from, pack(t, api.Mail{Kind: api.MailWhole, At: api.Spot{N: 1, Epoch: 1}}))
 		nothing(0, from, vote)
 		nothing(0, from, pack(t, api.Mail{Kind: api.MailLay, Term: 99, Index: 99, Prev: 99, Data: "x"}))
 	}
@@ -598,6 +618,11 @@ func TestSites(t *testing.T) { // P23.3, P23.4
 	}
 	if !slices.Equal(to, []int{3, 4, 5}) {
 		t.Fatal("to all three nodes of the other site", to)
+	}
+	w.come(nil)
+	w.tick(3)
+	if len(kindsOf(t, w.letters, api.MailShip)) != 0 || len(kindsOf(t, w.letters, api.MailClaim)) != 1 {
+		t.Fatal("it isn't the primary site's")
 	}
 	w.come(nil)
 	w.rounds(4, nil)
@@ -710,6 +735,12 @@ func TestSnapshots(t *testing.T) { // P23.3
 	if w.nodes[0].Applied() < 13 || w.nodes[2].Applied() > 5 {
 		t.Fatal(w.nodes[0].Applied(), w.nodes[2].Applied())
 	}
+	for id := range 2 {
+		_, kept, e := keep.Open(w.drives[id].Copy())
+		if n := w.nodes[id].Applied(); e != api.OK || n-kept.Base >= 4 || kept.Base%4 != 0 {
+			t.Fatal("one entry behind the other is done: each fourth one makes a snapshot", n, kept.Base)
+		}
+	}
 	_, kept, e := keep.Open(w.drives[0].Copy())
 	if e != api.OK || kept.Base < w.nodes[0].Applied()-4 || len(kept.Entries) > 4 {
 		t.Fatal("entries that were done are gone from the drive", kept.Base)
@@ -793,9 +824,115 @@ func TestNothingAhead(t *testing.T) { // P23.3, P23.5
 	}
 }
 
+// TestSiteMark tells a leader what its mates report, and sees what is far enough by that.
+func TestSiteMark(t *testing.T) { // P23.2, P23.3
+	spot := func(n int) api.Spot { return api.Spot{N: n, Epoch: 1} }
+	for i, c := range []struct {
+		one, two      api.Reach
+		second, third bool // are the puts at {2, 1}, {3, 1} answered?
+	}{
+		{api.Reach{}, api.Reach{}, false, false},
+		{api.Reach{At: spot(3), Holes: []int{2}}, api.Reach{At: spot(2)}, true, true},
+		{api.Reach{At: spot(3), Holes: []int{2, 3}}, api.Reach{}, false, false},
+		{api.Reach{At: spot(3), Holes: []int{2, 3}}, api.Reach{At: spot(2)}, true, false},
+		{api.Reach{At: spot(2)}, api.Reach{}, true, false},
+		{api.Reach{}, api.Reach{At: spot(3), Holes: []int{2}}, false, true},
+		{api.Reach{At: spot(2), Holes: []int{2}}, api.Reach{At: spot(3)}, true, true},
+		{api.Reach{At: spot(4)}, api.Reach{At: api.Spot{N: 3, Epoch: 2}}, false, false},
+		{api.Reach{At: spot(1)}, api.Reach{At: spot(1)}, false, false},
+	} {
+		w := withReign(t, conf)
+		quiet := func(l api.Letter) bool {
+			m, _ := mail.Parse(l.Data)
+			return m.Kind == api.MailWhole || m.Kind == api.MailBlob
+		}
+		a, b := w.ask(0, put(1, "a", "x")), w.ask(0, put(2, "b", "y"))
+		w.come(quiet)
+		for id, r := range map[int]api.Reach{1: c.one, 2: c.two} {
+			w.hear(w.nodes[0].Take(api.Letter{From: id, To: 0, Data: pack(t, api.Mail{Kind: api.MailWhole, At: r.At, Holes: r.Holes})}))
+		}
+		_, second := w.reply(a)
+		_, third := w.reply(b)
+		if second != c.second || third != c.third {
+			t.Fatal(i, second, third)
+		}
+	}
+}
+
+// TestOneAtATime sees that nothing is proposed while an entry isn't done.
+func TestOneAtATime(t *testing.T) { // P23.3
+	entries := func(list []api.Letter) int {
+		n := 0
+		for _, m := range kindsOf(t, list, api.MailFeed) {
+			n = max(n, m.Index+len(m.Entries))
+		}
+		return n
+	}
+	w := site0(t, conf)
+	w.ask(0, api.Ask{Kind: api.AskReign})
+	w.letters = nil
+	grant := pack(t, api.Mail{Kind: api.MailGrant, Epoch: 1})
+	for range 3 {
+		w.hear(w.nodes[0].Take(api.Letter{From: 6, To: 0, Data: grant}))
+		w.tick(0)
+	}
+	if n := entries(w.letters); n != 2 {
+		t.Fatal("the reign is proposed once", n)
+	}
+	w = both(t, conf)
+	ship := kindsOf(t, func() []api.Letter { w.tick(0); return w.letters }(), api.MailShip)[0]
+	w.letters = nil
+	for range 3 {
+		w.hear(w.nodes[3].Take(api.Letter{From: 0, To: 3, Data: pack(t, ship)}))
+		w.tick(3)
+	}
+	if n := entries(w.letters); n != 2 {
+		t.Fatal("what was shipped is proposed once", n)
+	}
+}
+
+// TestVaultRefuses lets a node lead again and again, alone: what it proposed is held, and fills the vault.
+func TestVaultRefuses(t *testing.T) { // P23.2
+	c := conf
+	c.Quota = 1
+	w := withReign(t, c)
+	n := 0
+	for term := 10; ; term += 10 {
+		for range 8 {
+			b := make([]byte, 512)
+			for k := range b {
+				b[k] = byte(k / 64)
+			}
+			for k := 0; k < 512; k += 64 {
+				b[k+1], b[k+2] = byte(n), byte(n>>8)
+			}
+			n++
+			if x, ok := w.reply(w.ask(0, put(n, "a", string(b)))); ok {
+				if n != 129 || x.Err != api.ErrQuota {
+					t.Fatal(n, x)
+				}
+				return
+			}
+		}
+		w.letters = nil
+		w.nodes[0].Take(api.Letter{From: 1, To: 0, Data: pack(t, api.Mail{Kind: api.MailFed, Term: term})})
+		for !w.nodes[0].Leads() {
+			_, l := w.nodes[0].Tick(0)
+			if asks := kindsOf(t, l, api.MailAsk); len(asks) > 0 {
+				w.nodes[0].Take(api.Letter{From: 1, To: 0, Data: pack(t, api.Mail{Kind: api.MailVote, Term: asks[0].Term, Good: true})})
+			}
+		}
+	}
+}
+
 func TestHolds(t *testing.T) { // P23.1, P23.4
 	w := withReign(t, conf)
 	n := w.ask(0, put(1, "a", "held"))
+	w.letters = nil
+	w.tick(0)
+	if len(w.drives[0].Names("b.")) != 1 {
+		t.Fatal("what the next entry needs is held")
+	}
 	w.letters = nil
 	w.drives[0].Crash()
 	w.open(0)

@@ -206,13 +206,34 @@ func TestPower(t *testing.T) { // P24.2, P24.3
 	if !w.Up(lead) || w.Ledger(lead).Last().N > 2 {
 		t.Fatal("it is up again")
 	}
+	// by a crash there is power again, though the node isn't up
+	do(t, w, api.Act{Kind: api.ActFuse, Node: lead, K: 0}, api.OK)
+	rounds(t, w, 4)
+	if !w.Up(lead) {
+		do(t, w, api.Act{Kind: api.ActFlip, Node: lead}, api.ErrNone)
+		do(t, w, api.Act{Kind: api.ActCrash, Node: lead}, api.OK)
+		do(t, w, api.Act{Kind: api.ActFlip, Node: lead}, api.OK)
+		do(t, w, api.Act{Kind: api.ActStart, Node: lead}, api.OK)
+	} else {
+		t.Fatal("a fuse of no steps")
+	}
+	rounds(t, w, 8)
 	// the witness
 	do(t, w, api.Act{Kind: api.ActFuse, Node: 6, K: 0}, api.OK)
 	rounds(t, w, 8)
 	if w.Grant() != (api.Grant{Epoch: 1, Site: 0}) {
 		t.Fatal(w.Grant())
 	}
-	ask(t, w, leader(t, w, 1), api.Ask{Kind: api.AskReign})
+	far := leader(t, w, 1)
+	ask(t, w, far, api.Ask{Kind: api.AskReign})
+	do(t, w, api.Act{Kind: api.ActTick, Node: far}, api.OK)
+	for k := w.Mails(); k > 0; k-- {
+		up, before := w.Up(6), w.Mails()
+		do(t, w, api.Act{Kind: api.ActDeliver, K: k - 1}, api.OK)
+		if up && !w.Up(6) && w.Mails() != before-1 {
+			t.Fatal("it says nothing when its power is gone")
+		}
+	}
 	rounds(t, w, 3)
 	if w.Up(6) || w.Grant() != (api.Grant{}) {
 		t.Fatal("its power is gone", w.Grant())
@@ -303,6 +324,13 @@ func TestFlip(t *testing.T) { // P24.2
 		t.Fatal(w.Misses(0))
 	}
 	do(t, w, api.Act{Kind: api.ActFlip, K: 1, Draw: 100000}, api.OK) // the same bit again
+	if w.Misses(0) != 0 {
+		t.Fatal(w.Misses(0))
+	}
+	for k := range 2 { // the same bit twice: modulo how many there are
+		do(t, w, api.Act{Kind: api.ActFlip, K: k, Draw: 3}, api.OK)
+		do(t, w, api.Act{Kind: api.ActFlip, K: k + 2, Draw: 3 + 512}, api.OK)
+	}
 	if w.Misses(0) != 0 {
 		t.Fatal(w.Misses(0))
 	}
