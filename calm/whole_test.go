@@ -25,7 +25,8 @@ type court struct {
 	answered map[int]api.Reply // by request
 	grants   map[int]int       // epochs, and one above the site that has it
 	fences   [6]int
-	lists    map[[2]int]int // by site and epoch: up to where a list told of it
+	lists    map[[2]int]int           // by site and epoch: up to where a list told of it
+	had      [2]map[api.Spot]struct{} // what a site had, ever
 	reigned  [2]bool
 	waits    bool // something was asked in mode lag or sync
 	bytes    int
@@ -37,7 +38,7 @@ func open(t *testing.T, c api.Conf, seed int64) *court {
 	if e != api.OK {
 		t.Fatal(e)
 	}
-	return &court{t: t, c: c, w: w, m: model.New(), seed: seed, answered: map[int]api.Reply{}, grants: map[int]int{}, lists: map[[2]int]int{}}
+	return &court{t: t, c: c, w: w, m: model.New(), seed: seed, answered: map[int]api.Reply{}, grants: map[int]int{}, lists: map[[2]int]int{}, had: [2]map[api.Spot]struct{}{{}, {}}}
 }
 
 func (k *court) do(a api.Act) api.Errno {
@@ -87,6 +88,7 @@ func (k *court) see(id int, l *ledger.Ledger) {
 		if k.grants[o.Epoch] != o.Site+1 {
 			k.t.Fatal(k.seed, "P2: an operation of an epoch that its site hasn't", o)
 		}
+		k.had[id/3][api.Spot{N: o.N, Epoch: o.Epoch}] = struct{}{}
 		if o.Kind != api.OpReign {
 			if done[[2]int{o.Client, o.Seq}]++; done[[2]int{o.Client, o.Seq}] > 1 {
 				k.t.Fatal(k.seed, "P1: done twice", o)
@@ -152,18 +154,10 @@ func (k *court) farEnough(a api.Ask, x api.Reply, site int) {
 	}
 }
 
-// has tells whether a node of a site that is up has an operation, or all that are aren't so far (it may be down).
+// has tells whether a site has an operation: what one of its nodes had once is agreed on there, though one that begins anew does it once more only later.
 func (k *court) has(site int, at api.Spot) bool {
-	up := 0
-	for id := 3 * site; id < 3*site+3; id++ {
-		if l := k.w.Ledger(id); l != nil {
-			up++
-			if ops := l.Ops(); at.N <= len(ops) && ops[at.N-1].Epoch == at.Epoch {
-				return true
-			}
-		}
-	}
-	return up < 3
+	_, ok := k.had[site][at]
+	return ok
 }
 
 // randomAct is an act that may be lost, late, doubled, and takes power away.
@@ -357,7 +351,7 @@ func play(t *testing.T, seed int64) (rounds int) {
 	return rounds
 }
 
-func TestStories(t *testing.T) { // P27.4; P1 to P5
+func TestStories(t *testing.T) { // P27.4, P24.5; P1 to P5
 	most := 0
 	for seed := range int64(60) {
 		most = max(most, play(t, seed))

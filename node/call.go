@@ -128,7 +128,8 @@ func (n *Node) Ask(number int, a api.Ask) ([]api.Reply, []api.Letter) {
 // end is what is done behind each call; nothing is said ahead of what must last.
 func (n *Node) end(c *call) ([]api.Reply, []api.Letter) {
 	for _, step := range []func(c *call){n.makeLast, n.resign, n.apply, n.compact, n.tidy, n.propose, n.answer} {
-		if step(c); n.off() {
+		step(c)
+		if n.off() {
 			return nil, nil
 		}
 	}
