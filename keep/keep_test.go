@@ -139,12 +139,12 @@ func TestSave(t *testing.T) { // P14.2
 	for n, appends := range map[int]int{5: 1, 6: 1, 7: 2, 14: 2, 15: 3, 22: 3, 23: 4} {
 		d := disk.New()
 		k := open(t, d, api.Kept{Vote: -1}, 0)
-		list := entries(make([]int, n)...)
-		want(t, k.Save(api.Save{From: 1, Entries: list}), api.OK)
+		list := entries(slices.Repeat([]int{1}, n)...)
+		want(t, k.Save(api.Save{Term: 1, From: 1, Entries: list}), api.OK)
 		if d.Steps() != 2*appends || k.Records() != n+2 {
 			t.Fatal("groups as great as may be, of at most eight", n, d.Steps())
 		}
-		open(t, d, api.Kept{Entries: list}, n+2)
+		open(t, d, api.Kept{Term: 1, Entries: list}, n+2)
 	}
 }
 
@@ -258,7 +258,7 @@ func TestPowerGoes(t *testing.T) { // P14.5
 					x := sure
 					if n := len(x.Entries); n > 0 {
 						drop := 1 + rnd.Intn(n)
-						x.Base, x.BaseTerm, x.Snap, x.Entries = x.Base+drop, 1, strings.Repeat("s", rnd.Intn(2500)), slices.Clone(x.Entries[drop:])
+						x.Base, x.BaseTerm, x.Snap, x.Entries = x.Base+drop, x.Entries[drop-1].Term, strings.Repeat("s", rnd.Intn(2500)), slices.Clone(x.Entries[drop:])
 					}
 					if e = k.Lay(x); e == api.OK {
 						sure = x
@@ -267,7 +267,7 @@ func TestPowerGoes(t *testing.T) { // P14.5
 					}
 					continue
 				}
-				s := api.Save{Term: sure.Term + rnd.Intn(2), Vote: rnd.Intn(4) - 1}
+				s := api.Save{Term: max(1, sure.Term+rnd.Intn(2)), Vote: rnd.Intn(4) - 1}
 				if rnd.Intn(2) == 0 {
 					s.From = sure.Base + 1 + rnd.Intn(len(sure.Entries)+1)
 				}

@@ -173,7 +173,9 @@ func TestPutAnewOverQuota(t *testing.T) { // P10.2
 	v = open(t, d, 15)
 	d.Flip(nameOf("0123456789"), 0)
 	put(t, v, "0123456789", api.ErrQuota)
-	get(t, v, "0123456789", api.ErrMissing)
+	if v.Has(sha.Sum("0123456789")) {
+		t.Fatal("it isn't there any more")
+	}
 	if _, ok := d.Read(nameOf("0123456789")); ok || v.Bytes() != 10 {
 		t.Fatal("its file is removed all the same")
 	}
