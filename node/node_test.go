@@ -961,3 +961,45 @@ func TestNilNode(t *testing.T) { // P23.5
 		t.Fatal("Ledger is a copy")
 	}
 }
+
+// TestReportsAreForgotten lets a leader lead anew: what its mates reported ahead of that counts no more.
+func TestReportsAreForgotten(t *testing.T) { // P23.3
+	w := withReign(t, conf)
+	whole := pack(t, api.Mail{Kind: api.MailWhole, At: api.Spot{N: 2, Epoch: 1}})
+	n := w.ask(0, put(1, "a", "x"))
+	w.come(func(l api.Letter) bool { m, _ := mail.Parse(l.Data); return m.Kind == api.MailWhole })
+	w.hear(w.nodes[0].Take(api.Letter{From: 1, To: 0, Data: whole}))
+	w.answered(n, api.Reply{At: api.Spot{N: 2, Epoch: 1}})
+	w.nodes[0].Take(api.Letter{From: 2, To: 0, Data: pack(t, api.Mail{Kind: api.MailFed, Term: 50})})
+	for !w.nodes[0].Leads() {
+		_, l := w.nodes[0].Tick(0)
+		if asks := kindsOf(t, l, api.MailAsk); len(asks) > 0 {
+			w.hear(w.nodes[0].Take(api.Letter{From: 1, To: 0, Data: pack(t, api.Mail{Kind: api.MailVote, Term: asks[0].Term, Good: true})}))
+		}
+	}
+	w.come(nil)
+	n = w.ask(0, put(1, "a", "x"))
+	w.come(nil)
+	if _, ok := w.reply(n); ok || w.nodes[0].Waits() != 1 {
+		t.Fatal("nobody has reported since")
+	}
+	w.hear(w.nodes[0].Take(api.Letter{From: 1, To: 0, Data: whole}))
+	w.answered(n, api.Reply{At: api.Spot{N: 2, Epoch: 1}})
+}
+
+// TestNewLane lets a site reign once more: what it ships then is of the new epoch.
+func TestNewLane(t *testing.T) { // P23.3, P23.4
+	w := withReign(t, conf)
+	w.hear(w.nodes[0].Take(api.Letter{From: 6, To: 0, Data: pack(t, api.Mail{Kind: api.MailGrant, Epoch: 3})}))
+	w.come(nil)
+	w.tick(0)
+	offers := kindsOf(t, w.letters, api.MailShip)
+	if len(offers) != 3 {
+		t.Fatal(offers)
+	}
+	for _, m := range offers {
+		if m.Epoch != 3 || m.Site != 0 || m.At != (api.Spot{N: 2, Epoch: 3}) || len(m.Ops) != 0 {
+			t.Fatal(m)
+		}
+	}
+}
