@@ -132,6 +132,11 @@ func TestFair(t *testing.T) { // P27.2
 	if calm.Fair(conf, nil) != -1 || calm.Fair(api.Conf{}, w, round...) != -1 {
 		t.Fatal("no world, no Spread")
 	}
+	narrow := conf
+	narrow.Spread = 1
+	if calm.Fair(narrow, w, tick(0, 5), tick(3, 9)) != 0 || calm.Fair(narrow, w, tick(0, 5), tick(1, 9)) != -1 {
+		t.Fatal("modulo one all are the same")
+	}
 	wide := conf
 	wide.Spread = 4
 	if calm.Fair(wide, w, ticks(0, 1, 3, 0, 1, 2)...) != 1 || calm.Fair(wide, w, ticks(0, 1, 4, 0, 1, 2)...) != -1 {
@@ -272,8 +277,36 @@ func TestCalm(t *testing.T) { // P27.3
 	try("a request waits", api.Act{Kind: api.ActAsk, Node: lead, Ask: api.Ask{Kind: api.AskList}})
 	try("nobody leads", api.Act{Kind: api.ActCrash, Node: lead}, api.Act{Kind: api.ActStart, Node: lead})
 	try("nobody leads there", api.Act{Kind: api.ActCrash, Node: far}, api.Act{Kind: api.ActStart, Node: far})
-	// the ledgers, the fence
+	// one letter
 	c, _ := w.Copy()
+	do(t, c, tick(1, 0))
+	for c.Mails() > 1 {
+		do(t, c, api.Act{Kind: api.ActDrop})
+	}
+	if calm.Calm(c) {
+		t.Fatal("a letter is on its way")
+	}
+	do(t, c, api.Act{Kind: api.ActDrop})
+	if !calm.Calm(c) {
+		t.Fatal("nothing else is to do")
+	}
+	// a candidate that nobody votes for
+	c, _ = w.Copy()
+	other := 3 + (far+1)%3
+	for c.Leads(far) {
+		do(t, c, tick(other, 0))
+		for n := c.Mails(); n > 0; n-- {
+			do(t, c, api.Act{Kind: api.ActDeliver}) // what is answered to it is lost
+		}
+		for c.Mails() > 0 {
+			do(t, c, api.Act{Kind: api.ActDrop})
+		}
+	}
+	if calm.Calm(c) {
+		t.Fatal("at one site nobody leads")
+	}
+	// the ledgers, the fence
+	c, _ = w.Copy()
 	do(t, c, api.Act{Kind: api.ActAsk, Node: far, Ask: api.Ask{Kind: api.AskReign}}, tick(far, 0))
 	for c.Mails() > 0 {
 		do(t, c, api.Act{Kind: api.ActDeliver})
